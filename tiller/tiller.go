@@ -2,6 +2,7 @@
 package tiller
 
 import (
+	"tiller/ahead"
 	"tiller/api"
 	"tiller/config"
 )
@@ -27,7 +28,12 @@ func Decode(b []byte) (api.Config, api.Errno) {
 }
 
 // Check tells whether all will be in time (P5).
-func Check(c api.Config) (api.Report, api.Errno) { return api.Report{}, api.OK }
+func Check(c api.Config) (api.Report, api.Errno) {
+	if !config.Valid(c) {
+		return api.Report{}, api.ErrConfig
+	}
+	return ahead.Report(c), api.OK
+}
 
 // New makes an executive (P6).
 func New(c api.Config) (*Exec, api.Errno) { return nil, api.OK }
