@@ -2,13 +2,20 @@
 package tiller
 
 import (
+	"sync"
+
 	"tiller/ahead"
 	"tiller/api"
 	"tiller/config"
+	"tiller/rounds"
 )
 
-// Exec is an executive.
-type Exec struct{}
+// Exec is an executive. Its calls may come from several goroutines at a time: each one
+// locks it. A caller who has locked it must let it go ahead of a call.
+type Exec struct {
+	sync.Mutex
+	state rounds.State
+}
 
 // Encode gives a configuration's bytes (P3).
 func Encode(c api.Config) ([]byte, api.Errno) {
@@ -36,13 +43,30 @@ func Check(c api.Config) (api.Report, api.Errno) {
 }
 
 // New makes an executive (P6).
-func New(c api.Config) (*Exec, api.Errno) { return nil, api.OK }
+func New(c api.Config) (*Exec, api.Errno) {
+	if !config.Valid(c) {
+		return nil, api.ErrConfig
+	}
+	return &Exec{state: rounds.Start(c)}, api.OK
+}
 
 // Feed feeds bytes to a line (P6).
-func (x *Exec) Feed(line int, at int, b []byte) api.Errno { return api.OK }
+func (x *Exec) Feed(line int, at int, b []byte) api.Errno {
+	x.Lock()
+	defer x.Unlock()
+	return x.state.Feed(line, at, b)
+}
 
 // Run lets it work (P7).
-func (x *Exec) Run(until int) []api.Event { return nil }
+func (x *Exec) Run(until int) []api.Event {
+	x.Lock()
+	defer x.Unlock()
+	return x.state.Run(until)
+}
 
 // Counts tells how things are (P8).
-func (x *Exec) Counts() api.Counts { return api.Counts{} }
+func (x *Exec) Counts() api.Counts {
+	x.Lock()
+	defer x.Unlock()
+	return x.state.Counts()
+}
